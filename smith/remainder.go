@@ -86,18 +86,22 @@ func remainders(grid [][]int, p uint64) [][]uint64 {
 // place of rows and columns that make up a square of a determinant that is not 0, and as many as can be.
 type place struct {
 	rows, cols []int
-	det        uint64 // that determinant's remainder
+	det, prime uint64 // that determinant's remainder, and by what
 }
 
 // basis: such a place over the field of p elements.
 func basis(grid [][]int, p uint64) place {
-	l := remainders(grid, p)
+	return eliminate(remainders(grid, p), width(grid), p)
+}
+
+// eliminate: such a place among the first columns. Rows change places, and come to have 0 up to where the one ahead begins.
+func eliminate(l [][]uint64, cols int, p uint64) place {
 	order := make([]int, len(l))
 	for i := range order {
 		order[i] = i
 	}
-	out := place{det: 1 % p}
-	for col := range width(grid) {
+	out := place{det: 1 % p, prime: p}
+	for col := range cols {
 		top := len(out.rows)
 		at := top
 		for at < len(l) && l[at][col] == 0 {

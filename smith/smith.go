@@ -9,9 +9,17 @@ type Matrix struct {
 	L          []int
 }
 
+// GreatSide is the bound of rows and columns that chains have in place of MaxSide: see ValidGreat, RankGreat, FactorsGreat.
+const GreatSide = 300
+
 // Valid matrix?
-func Valid(m Matrix) error {
-	if outside(m.Rows) || outside(m.Cols) {
+func Valid(m Matrix) error { return valid(m, api.MaxSide) }
+
+// ValidGreat is Valid with GreatSide.
+func ValidGreat(m Matrix) error { return valid(m, GreatSide) }
+
+func valid(m Matrix, side int) error {
+	if outside(m.Rows, side) || outside(m.Cols, side) {
 		return api.ErrBound
 	}
 	if len(m.L) != m.Rows*m.Cols {
@@ -20,7 +28,7 @@ func Valid(m Matrix) error {
 	return entries(m.L)
 }
 
-func outside(side int) bool { return side < 0 || side > api.MaxSide }
+func outside(n, side int) bool { return n < 0 || n > side }
 
 // entries that a matrix may have?
 func entries(l []int) error {
@@ -35,36 +43,48 @@ func entries(l []int) error {
 func tooGreat(x int) bool { return x < -api.MaxEntry || x > api.MaxEntry }
 
 // Rank over a field.
-func Rank(m Matrix, p int) (int, error) {
-	if err := Valid(m); err != nil {
+func Rank(m Matrix, p int) (int, error) { return rank(m, p, api.MaxSide) }
+
+// RankGreat is Rank with GreatSide.
+func RankGreat(m Matrix, p int) (int, error) { return rank(m, p, GreatSide) }
+
+func rank(m Matrix, p, side int) (int, error) {
+	if err := valid(m, side); err != nil {
+		return 0, err
+	}
+	if err := Field(p); err != nil {
 		return 0, err
 	}
 	if p == 0 {
-		return len(wholeBasis(m.grid()).rows), nil
-	}
-	if p < 0 || p > maxField || !isPrime(uint64(p)) {
-		return 0, api.ErrKind
+		c := shrink(m.grid())
+		return len(c.taken) + len(wholeBasis(c.rows).rows), nil
 	}
 	return len(basis(m.grid(), uint64(p)).rows), nil
 }
 
+// Field of p elements (0: of fractions), as Rank takes it?
+func Field(p int) error {
+	if p == 0 || p > 0 && p <= maxField && isPrime(uint64(p)) {
+		return nil
+	}
+	return api.ErrKind
+}
+
 // Factors of a matrix.
-func Factors(m Matrix) ([]int, error) {
-	if err := Valid(m); err != nil {
+func Factors(m Matrix) ([]int, error) { return factorsUpTo(m, api.MaxSide) }
+
+// FactorsGreat is Factors with GreatSide.
+func FactorsGreat(m Matrix) ([]int, error) { return factorsUpTo(m, GreatSide) }
+
+func factorsUpTo(m Matrix, side int) ([]int, error) {
+	if err := valid(m, side); err != nil {
 		return nil, err
 	}
-	grid := m.grid()
-	t := newTable(grid, m.Cols, wholeBasis(grid))
-	out := make([]int, 0, t.left)
-	for range t.left {
-		t.next()
-		x, ok := t.factor.Word()
-		if !ok || x > api.MaxFactor {
-			return nil, api.ErrBound
-		}
-		out = append(out, int(x))
+	l, ok := factors(m.grid())
+	if !ok {
+		return nil, api.ErrBound
 	}
-	return out, nil
+	return l, nil
 }
 
 // Det: the determinant.
@@ -75,15 +95,15 @@ func Det(m Matrix) (int, error) {
 	if m.Rows != m.Cols {
 		return 0, api.ErrShape
 	}
-	size, negative := determinant(m.grid())
-	x, ok := size.Word()
-	if !ok || x > api.MaxFactor {
+	amount, negative := determinant(m.grid())
+	x, ok := told(amount)
+	if !ok {
 		return 0, api.ErrBound
 	}
 	if negative {
-		return -int(x), nil
+		return -x, nil
 	}
-	return int(x), nil
+	return x, nil
 }
 
 // Solvable in whole numbers?
@@ -102,7 +122,8 @@ func Solvable(m Matrix, b []int) (bool, error) {
 	if len(wholeBasis(both).rows) > len(found.rows) {
 		return false, nil // not even in fractions
 	}
-	t := newTable(both, m.Cols, found)
+	mod, _ := determinant(cut(both, found))
+	t := newTable(both, m.Cols, mod, len(found.rows), len(found.rows))
 	for range t.left {
 		if !t.next() {
 			return false, nil

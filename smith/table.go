@@ -2,20 +2,20 @@ package smith
 
 import "handlebody/whole"
 
-// table of remainders from which a matrix's factors are taken one by one. The determinant of a greatest square that is not 0 is a multiple of all factors' product, so that remainders by it are enough: entries do not grow.
+// table of remainders from which a matrix's factors are taken one by one. Remainders by a multiple of the last factor are enough, as of the determinant of a greatest square that is not 0: entries do not grow. (By another number, they tell what each factor has in common with it.)
 //
 // Whatever is done to rows is an adding of one to another: it holds for whole numbers, too, and for the right sides of equations, which stand behind the columns.
 type table struct {
-	mod    whole.Nat // a multiple of the product of the factors that are left, each less what was divided out
+	mod    whole.Nat // a multiple of the product of the last factors that are left, each less what was divided out
+	covers int       // how many these are, at most
 	factor whole.Nat // the last one that was taken; what was divided out
 	left   int       // how many there are still
 	cols   int       // a row has these, and maybe right sides
 	rows   [][]whole.Nat
 }
 
-func newTable(grid [][]int, cols int, at place) *table {
-	mod, _ := determinant(cut(grid, at))
-	t := &table{mod: mod, factor: whole.Of(1), left: len(at.rows), cols: cols}
+func newTable(grid [][]int, cols int, mod whole.Nat, left, covers int) *table {
+	t := &table{mod: mod, covers: covers, factor: whole.Of(1), left: left, cols: cols}
 	for _, row := range grid {
 		l := make([]whole.Nat, len(row))
 		for k, x := range row {
@@ -24,6 +24,20 @@ func newTable(grid [][]int, cols int, at place) *table {
 		t.rows = append(t.rows, l)
 	}
 	return t
+}
+
+// factors of all; false: one is above MaxFactor.
+func (t *table) factors() ([]int, bool) {
+	out := make([]int, 0, t.left)
+	for range t.left {
+		t.next()
+		x, ok := told(t.factor)
+		if !ok {
+			return nil, false
+		}
+		out = append(out, x)
+	}
+	return out, true
 }
 
 func (t *table) remainder(x int) whole.Nat {
@@ -88,12 +102,12 @@ func (t *table) rightSidesDivide(by whole.Nat) bool {
 	return true
 }
 
-// divideOut what divides all entries. Each factor that is left is a multiple of it, so mod has it as often as there are such.
+// divideOut what divides all entries. Each factor that is left is a multiple of it, so mod has it as often as it covers such.
 func (t *table) divideOut(common whole.Nat) {
 	if common.IsOne() {
 		return
 	}
-	t.mod, _ = t.mod.Divide(common.Power(t.left))
+	t.mod, _ = t.mod.Divide(common.Power(min(t.left, t.covers)))
 	for _, row := range t.rows {
 		for k, x := range row {
 			quotient, _ := x.Divide(common)
