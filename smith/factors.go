@@ -6,7 +6,7 @@ import (
 )
 
 // smooth: small primes are in many numbers by chance; so many of each are allowed for.
-const smooth = 1 << 16 * 6561 * 625 * 343 * 11 * 13 * 17 * 19
+const smooth = (1 << 16) * 6561 * 625 * 343 * 11 * 13 * 17 * 19
 
 // factors of a matrix; false: one is above MaxFactor.
 func factors(grid [][]int) ([]int, bool) {

@@ -4,7 +4,7 @@ import "handlebody/whole"
 
 // lastDivisor: a number that divides the last factor, and is seldom less by more than small primes.
 //
-// With a greatest square B, whose determinant is det, and any c: let y = B^-1 c, times the least number so that all rows, at the columns of B, have whole products with y. And let b = c B^-1 R, with the rows R of B, times the least number so that it is whole. All whole sums of rows have whole products with y, so that the product of b and y, which is a fraction over the divisor that is sought, must be taken so often until some multiple of b is such a sum; and the last factor is often enough for all that is whole and a sum of rows with fractions.
+// Let B be a greatest square, R its rows, c any numbers. Let y be B^-1 c, times the least number that makes its products with all rows whole: those with whole sums of rows are whole, then. Let b be c B^-1 R, times the least number that makes it whole: it is a sum of rows with fractions, so that the last factor times b is a whole sum of rows. Then that factor makes the product of b and y whole: it is a multiple of what stands below that fraction.
 func lastDivisor(grid [][]int, at place, det whole.Nat) whole.Nat {
 	square := cut(grid, at)
 	side := anyNumbers(len(square))
