@@ -71,13 +71,10 @@ func turnArrow(w Words, m Move) (Words, error) {
 }
 
 func cutWord(w Words, m Move) (Words, error) {
-	// The document names the bound ahead of what cannot be done. Words so long have all names already: behind the names, the bound would never be told.
-	if letters(w)+2 > api.MaxWord {
-		return nil, api.ErrBound
-	}
 	if !hasLetter(w, m) || m.At == 0 || !isFree(w, m.Letter) {
 		return nil, api.ErrOrder
 	}
+	// No bound is asked of what comes: beside a free name stand MaxLetter - 1 others, each twice at most, and MaxWord is twice MaxLetter: so there is room for two letters more.
 	first := append(slices.Clone(w[m.Word][:m.At]), m.Letter)
 	second := append([]int{-m.Letter}, w[m.Word][m.At:]...)
 	return slices.Replace(copied(w), m.Word, m.Word+1, first, second), nil

@@ -764,7 +764,7 @@ func TestApplyElsewhere(t *testing.T) {
 	}
 }
 
-// TestTheBoundOfCuts: 118 letters become 120; of more, the bound is told ahead of all that cannot be done.
+// TestTheBoundOfCuts: 118 letters become 120; of more, no cut can be done, as no name is free: nothing comes, and so no bound is told.
 func TestTheBoundOfCuts(t *testing.T) {
 	full := counted(120)
 	if out, err := Apply(Words{full[:118]}, Move{Kind: "cut", At: 60, Letter: 60}); err != nil || len(out) != 2 || len(out[0]) != 61 || len(out[1]) != 59 {
@@ -774,8 +774,13 @@ func TestTheBoundOfCuts(t *testing.T) {
 		t.Error(out, err)
 	}
 	for _, w := range []Words{{full}, {full[:119]}, {full[:50], full[50:]}} {
-		for _, m := range []Move{{Kind: "cut", At: 1, Letter: 60}, {Kind: "cut", At: 1, Letter: 61}, {Kind: "cut", Word: 7}} {
-			if out, err := Apply(w, m); err != api.ErrBound || out != nil {
+		for _, m := range []Move{
+			{Word: 5, At: 1, Letter: 7}, {Word: len(w), At: 1, Letter: 60}, {Word: -1, At: 1, Letter: 7}, {Word: 7},
+			{At: 500, Letter: 7}, {At: len(w[0]), Letter: 7}, {At: 0, Letter: 7}, {At: -1, Letter: 7},
+			{At: 1, Letter: 7}, {At: 1, Letter: 60}, {At: 1, Letter: 61}, {At: 1}, {At: 1, Letter: -7},
+		} {
+			m.Kind = "cut"
+			if out, err := Apply(w, m); err != api.ErrOrder || out != nil {
 				t.Error(len(w), m, out, err)
 			}
 		}
@@ -788,6 +793,63 @@ func TestTheBoundOfCuts(t *testing.T) {
 		if out, err := Apply(w, Move{Kind: "turn", Word: 7}); err != api.ErrOrder || out != nil {
 			t.Error(len(w), out, err)
 		}
+	}
+	if out, err := Apply(Words{counted(121)}, Move{Kind: "cut", Word: 5, At: 1, Letter: 7}); err != api.ErrBound || out != nil {
+		t.Error(out, err)
+	}
+}
+
+// parted: the letters in another order, with other signs, in three words.
+func parted(r *rand.Rand, letters []int) Words {
+	bag := slices.Clone(letters)
+	r.Shuffle(len(bag), func(i, k int) { bag[i], bag[k] = bag[k], bag[i] })
+	for i := range bag {
+		if r.Intn(2) == 0 {
+			bag[i] = -bag[i]
+		}
+	}
+	a := 1 + r.Intn(len(bag)-2)
+	b := a + 1 + r.Intn(len(bag)-a-1)
+	return Words{bag[:a], bag[a:b], bag[b:]}
+}
+
+// TestCutsOfLongWords: of as many letters as there may be, and a few less, each cut is the plain one or ErrOrder, and the words stay.
+func TestCutsOfLongWords(t *testing.T) {
+	r := rand.New(rand.NewSource(6))
+	full := counted(120)
+	names := []int{math.MinInt, -60, -1, 0, 1, 2, 30, 57, 58, 59, 60, 61, math.MaxInt}
+	// full[1:119] has all names among 118 letters: two of them stand there once.
+	for _, letters := range [][]int{full, full[:119], full[:118], full[:117], full[:116], full[1:119], full[1:]} {
+		w := parted(r, letters)
+		before := fmt.Sprint(w)
+		for _, word := range []int{math.MinInt, -1, 0, 1, 2, 3, math.MaxInt} {
+			for at := -2; at < 123; at++ {
+				for _, name := range names {
+					m := Move{Kind: "cut", Word: word, At: at, Letter: name}
+					askCut(t, w, m)
+				}
+			}
+			askCut(t, w, Move{Kind: "cut", Word: word, At: math.MinInt, Letter: 60})
+			askCut(t, w, Move{Kind: "cut", Word: word, At: math.MaxInt, Letter: 60})
+		}
+		if now := fmt.Sprint(w); now != before {
+			t.Error(now, before)
+		}
+	}
+}
+
+func askCut(t *testing.T, w Words, m Move) {
+	t.Helper()
+	out, err := Apply(w, m)
+	want := plainMove(w, m)
+	if want == nil {
+		if err != api.ErrOrder || out != nil {
+			t.Fatal(w, m, out, err)
+		}
+		return
+	}
+	if err != nil || Valid(out) != nil || !slices.EqualFunc(out, want, slices.Equal) {
+		t.Fatal(w, m, out, want, err)
 	}
 }
 
@@ -900,7 +962,7 @@ func TestMovesKeepTheSurface(t *testing.T) {
 			m := Move{kindOf(r.Intn(kinds)), word, r.Intn(len(w[word])), r.Intn(len(w)), 1 + r.Intn(60)}
 			out, err := Apply(w, m)
 			if err != nil {
-				if err != api.ErrOrder && err != api.ErrBound {
+				if err != api.ErrOrder {
 					t.Fatal(w, m, err)
 				}
 				continue
