@@ -73,10 +73,10 @@ func pieces(w Words) []Piece {
 	for i := range w {
 		if p.words.of(i) == i {
 			turning := p.faces.of(2*i) != p.faces.of(2*i+1)
-			out = append(out, piece(turning, euler[i], rims[i]))
+			out = append(out, ByEuler(turning, euler[i], rims[i]))
 		}
 	}
-	slices.SortFunc(out, compare)
+	slices.SortFunc(out, Compare)
 	return out
 }
 
@@ -114,7 +114,8 @@ func (p plan) rimsOfPieces(w Words) []int {
 	return out
 }
 
-func piece(turning bool, euler, rims int) Piece {
+// ByEuler: the piece whose vertices less edges and polygons are that number.
+func ByEuler(turning bool, euler, rims int) Piece {
 	genus := 2 - rims - euler
 	if turning {
 		genus /= 2
@@ -122,8 +123,8 @@ func piece(turning bool, euler, rims int) Piece {
 	return Piece{turning, genus, rims}
 }
 
-// compare pieces: Turning ones ahead, then by Genus, then by Rims.
-func compare(a, b Piece) int {
+// Compare pieces: Turning ones ahead, then by Genus, then by Rims.
+func Compare(a, b Piece) int {
 	if a.Turning != b.Turning {
 		if a.Turning {
 			return -1

@@ -1,6 +1,7 @@
 package surface
 
 import (
+	"cmp"
 	"errors"
 	"fmt"
 	"math"
@@ -1055,5 +1056,23 @@ func TestNothingIsSharedOrChanged(t *testing.T) {
 	m, err2 := Normal(Piece{true, 0, 0})
 	if fmt.Sprint(m) != "[1 -1]" || err != nil || err2 != nil {
 		t.Error(m, err, err2)
+	}
+}
+
+func TestPiecesByEulerInOrder(t *testing.T) {
+	l := []Piece{ByEuler(true, 2, 0), ByEuler(true, 1, 1), ByEuler(true, 0, 0), ByEuler(true, -3, 1), ByEuler(false, 1, 0), ByEuler(false, 0, 1), ByEuler(false, 0, 0)}
+	if got := fmt.Sprint(l); got != "[{true 0 0} {true 0 1} {true 1 0} {true 2 1} {false 1 0} {false 1 1} {false 2 0}]" {
+		t.Error(got)
+	}
+	for i, a := range l {
+		for k, b := range l {
+			if got := Compare(a, b); got != cmp.Compare(i, k) {
+				t.Error(a, b, got)
+			}
+		}
+	}
+	for _, n := range []int{math.MinInt, math.MaxInt} {
+		ByEuler(true, n, n)
+		Compare(Piece{true, n, -n}, Piece{true, -n, n})
 	}
 }
