@@ -96,7 +96,7 @@ func randomCosets(r *rand.Rand, g group.Group) [][]int {
 	if len(g.Relators) == 0 && r.Intn(2) == 0 {
 		return randomTable(r, 1+r.Intn(12), g.Generators)
 	}
-	for range 6 {
+	for range 3 {
 		var words [][]int
 		for range r.Intn(3) {
 			words = append(words, randomWord(r, g.Generators))
