@@ -288,6 +288,28 @@ func TestOrient(t *testing.T) {
 	}
 }
 
+// TestOrientClosed: Orient's signs, but none of what has a rim or several pieces.
+func TestOrientClosed(t *testing.T) {
+	for text, want := range map[string]bool{
+		circle: true, square: true, ball: true, octa: true, torus: true, "0 1 2 3; 0 1 2 4; 0 1 3 4; 0 2 3 4; 1 2 3 4": true,
+		"0 1": false, "0 1; 1 2": false, "0 1 2": false, band: false, "0 1 2 3": false, "0 1 2 3; 1 2 3 4": false,
+		plane: false, moebius: false,
+		circle + "; 3 4; 4 5; 3 5": false, ball + "; " + moved(ball, 10): false, ball + "; " + moved(plane, 10): false, plane + "; " + moved(ball, 10): false, ball + "; " + moved(band, 10): false,
+	} {
+		c := read(t, text)
+		l, ok, err := OrientClosed(c)
+		signs, _, _ := Orient(c)
+		if ok != want || err != nil || ok && !slices.Equal(l, signs) || !ok && l != nil {
+			t.Error(text, l, ok, err)
+		}
+	}
+	for name, want := range map[string]bool{"circle times torus": true, "circle times plane": false, "edge times torus": false, "circle times sphere": true, "two points times twist": false, "two apart": false, "without one": false} {
+		if l, ok, err := OrientClosed(solids(t)[name].c); ok != want || err != nil || !ok && l != nil {
+			t.Error(name, l, ok, err)
+		}
+	}
+}
+
 func TestSurface(t *testing.T) {
 	r := rand.New(rand.NewSource(83))
 	for text, want := range surfaces() {
@@ -370,8 +392,10 @@ func answers(c cells.Complex) map[string][]any {
 	signs, ok, err3 := Orient(c)
 	words, err4 := Words(c)
 	kind, err5 := Surface(c)
+	closed, sure, err6 := OrientClosed(c)
 	return map[string][]any{
 		"Shape": {shape, err0}, "Is": {is, err1}, "Rim": {len(rim.Facets), err2}, "Orient": {len(signs), ok, err3}, "Words": {len(words), err4}, "Surface": {len(kind.Pieces), err5},
+		"OrientClosed": {len(closed), sure, err6},
 	}
 }
 
@@ -393,7 +417,7 @@ func askErrors(t *testing.T, name string, c cells.Complex, calls string, want er
 }
 
 func TestWrongComplexes(t *testing.T) {
-	const all = "Shape Is Rim Orient Words Surface"
+	const all = "Shape Is Rim Orient OrientClosed Words Surface"
 	for name, x := range map[string]struct {
 		l    [][]int
 		want error
@@ -421,18 +445,18 @@ func TestWrongComplexes(t *testing.T) {
 }
 
 func TestWrongDimensionsAndKinds(t *testing.T) {
-	const manifolds = "Is Rim Orient Words Surface"
+	const manifolds = "Is Rim Orient OrientClosed Words Surface"
 	for _, text := range []string{"", "0", "0; 1", "0; 1; 2", "0 1 2 3 4", "0 1 2; 3 4 5 6 7", "0 1 2 3 4 5 6"} {
 		askErrors(t, text, read(t, text), manifolds, api.ErrBound)
 	}
 	for _, text := range []string{"0 1; 1 2; 1 3", "0 1; 2", "0 1 2; 2 3", "0 1 2; 2 3 4", "0 1 2; 3", "0 1 2 3; 3 4 5 6", "0 1 2 3; 2 3 4", "0 1 2; 0 1 3; 0 1 4"} {
-		askErrors(t, text, read(t, text), "Rim Orient Words Surface", api.ErrKind)
+		askErrors(t, text, read(t, text), "Rim Orient OrientClosed Words Surface", api.ErrKind)
 	}
 	for _, text := range []string{"0 1", circle, "0 1 2 3", "0 1 2 3; 4 5 6 7"} {
 		askErrors(t, text, read(t, text), "Words Surface", api.ErrKind)
 	}
 	askErrors(t, "a cone over a plane", solids(t)["a cone over a plane"].c, "Shape", api.ErrBound)
-	askErrors(t, "a cone over a plane", solids(t)["a cone over a plane"].c, "Rim Orient Words Surface", api.ErrKind)
+	askErrors(t, "a cone over a plane", solids(t)["a cone over a plane"].c, "Rim Orient OrientClosed Words Surface", api.ErrKind)
 	var none *api.Fault
 	if _, err := Rim(read(t, "0")); errors.As(err, &none) {
 		t.Error("a place is told that no one asks for")
@@ -565,7 +589,7 @@ func askManifold(t *testing.T, c cells.Complex) bool {
 	}
 	rim, err := Rim(c)
 	if !is {
-		askErrors(t, fmt.Sprint(c), c, "Rim Orient Words Surface", api.ErrKind)
+		askErrors(t, fmt.Sprint(c), c, "Rim Orient OrientClosed Words Surface", api.ErrKind)
 		return false
 	}
 	if err != nil || cells.Valid(rim) != nil || !slices.EqualFunc(rim.Facets, plainRim(c), slices.Equal[[]int]) {
